@@ -1,7 +1,6 @@
 package play_test
 
 import (
-	"math"
 	"math/rand"
 	"slices"
 	"testing"
@@ -9,6 +8,7 @@ import (
 	"zugzwang/api"
 	"zugzwang/board"
 	"zugzwang/play"
+	"zugzwang/sample"
 )
 
 // modelCan says by the chapter's words, written once more, what is wrong with a move.
@@ -97,37 +97,6 @@ func modelMove(p api.Position, m api.Move) (api.Position, api.Errno) {
 
 func choose[T any](r *rand.Rand, all ...T) T { return all[r.Intn(len(all))] }
 
-// scattered has anything on its squares, also what is no piece, and is seldom right; kings stand on their squares often.
-func scattered(r *rand.Rand) api.Position {
-	p := api.Position{
-		Side:   api.Side(r.Intn(2)),
-		Castle: api.Castle(r.Intn(16)),
-		Over:   choose(r, -1, r.Intn(64), 40+r.Intn(8), 16+r.Intn(8)),
-		Half:   choose(r, 0, 1, r.Intn(1030), 1023, 1024, 1025, -1, math.MaxInt, math.MinInt),
-		Full:   choose(r, 1, 2, r.Intn(16390), 16383, 16384, 16385, 0, math.MaxInt, math.MinInt),
-	}
-	if r.Intn(8) == 0 {
-		p.Castle, p.Over = choose(r, wrongCastles()...), choose(r, noSquares()...)
-	}
-	if r.Intn(12) == 0 {
-		p.Side = choose(r, wrongSides()...)
-	}
-	wrong, dense := wrongPieces(), r.Intn(9)+1
-	for s := range p.Squares {
-		switch {
-		case r.Intn(10) >= dense:
-		case r.Intn(16) == 0:
-			p.Squares[s] = choose(r, wrong...)
-		default:
-			p.Squares[s] = choose(r, rightPieces()...)
-		}
-	}
-	if r.Intn(2) == 0 {
-		p = set(p, "e1K e8k")
-	}
-	return p
-}
-
 // anyMove goes from anywhere to anywhere, often as kings castle, as pawns leap, take and reach the end.
 func anyMove(r *rand.Rand, p api.Position) api.Move {
 	m := api.Move{From: r.Intn(64), To: r.Intn(64)}
@@ -154,7 +123,7 @@ func TestByModel(t *testing.T) { // P8.1, P8.2
 	r := rand.New(rand.NewSource(81))
 	var of [32]int
 	for range 20000 {
-		p := scattered(r)
+		p := sample.Scattered(r.Intn)
 		for range 20 {
 			m := anyMove(r, p)
 			want, no := modelMove(p, m)
@@ -176,7 +145,7 @@ func TestByModel(t *testing.T) { // P8.1, P8.2
 func TestRowsByModel(t *testing.T) { // P8.1
 	r := rand.New(rand.NewSource(18))
 	for range 3000 {
-		p := scattered(r)
+		p := sample.Scattered(r.Intn)
 		want, no := p, api.OK
 		var l []api.Move
 		for range r.Intn(12) {
