@@ -60,7 +60,7 @@ func TestOpen(t *testing.T) { // P9.1
 
 // with puts a thing on squares.
 func with(p api.Position, x api.Piece, squares string) api.Position {
-	for _, m := range to("a1", squares) {
+	for _, m := range sample.To("a1", squares) {
 		p.Squares[m.To] = x
 	}
 	return p

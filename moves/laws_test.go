@@ -187,7 +187,7 @@ func TestOfRightOnes(t *testing.T) { // P9.2
 		laws(t, p)
 		want := moves.All(p)
 		for i := range want {
-			want[i].From, want[i].To = want[i].From^56, want[i].To^56
+			want[i] = sample.Turned(want[i])
 		}
 		slices.SortFunc(want, func(a, b api.Move) int {
 			return slices.Compare([]int{a.From, a.To, int(a.Becomes)}, []int{b.From, b.To, int(b.Becomes)})
@@ -220,23 +220,10 @@ func countLegal(p api.Position, deep int) int {
 }
 
 func TestKnownCounts(t *testing.T) { // P9.1
-	both := func(p api.Position, castle api.Castle) api.Position {
-		p.Castle = castle
-		return p
-	}
-	for _, c := range []struct {
-		p    api.Position
-		want []int
-	}{
-		{sample.Begin(), []int{20, 400, 8902}},
-		{both(sample.Board("r...k..r", "p.ppqpb.", "bn..pnp.", "...PN...", ".p..P...", "..N..Q.p", "PPPBBPPP", "R...K..R"), 15), []int{48, 2039, 97862}},
-		{sample.Board("........", "..p.....", "...p....", "KP.....r", ".R...p.k", "........", "....P.P.", "........"), []int{14, 191, 2812, 43238}},
-		{both(sample.Board("r...k..r", "Pppp.ppp", ".b...nbN", "nP......", "BBP.P...", "q....N..", "Pp.P..PP", "R..Q.RK."), 12), []int{6, 264, 9467}},
-		{both(sample.Board("rnbq.k.r", "pp.Pbppp", "..p.....", "........", "..B.....", "........", "PPP.NnPP", "RNBQK..R"), 3), []int{44, 1486, 62379}},
-	} {
-		for i, want := range c.want {
-			if got := countLegal(c.p, i+1); got != want {
-				t.Errorf("%v: %d rows of %d, want %d", c.p, got, i+1, want)
+	for _, c := range sample.Known() {
+		for i, want := range c.Rows {
+			if got := countLegal(c.Position, i+1); got != want {
+				t.Errorf("%v: %d rows of %d, want %d", c.Position, got, i+1, want)
 			}
 		}
 	}

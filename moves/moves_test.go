@@ -11,20 +11,6 @@ import (
 	"zugzwang/sample"
 )
 
-// to are moves from a square, by the names of those they lead to; with an equals sign behind, a pawn becomes each of four there.
-func to(at, names string) []api.Move {
-	var l []api.Move
-	for _, name := range strings.Fields(names) {
-		text := at + strings.TrimSuffix(name, "=")
-		if strings.HasSuffix(name, "=") {
-			l = append(l, sample.Moves(text+"N "+text+"B "+text+"R "+text+"Q")...)
-		} else {
-			l = append(l, sample.Move(text))
-		}
-	}
-	return l
-}
-
 func from(t *testing.T, what string, p api.Position, s int, want []api.Move) {
 	t.Helper()
 	if got := moves.From(p, s); !slices.Equal(got, want) {
@@ -35,7 +21,7 @@ func from(t *testing.T, what string, p api.Position, s int, want []api.Move) {
 // goes asks the moves from a square by its name.
 func goes(t *testing.T, what string, p api.Position, at, names string) {
 	t.Helper()
-	from(t, what, p, sample.Square(at), to(at, names))
+	from(t, what, p, sample.Square(at), sample.To(at, names))
 }
 
 // allGo asks all moves, given by squares with what their pieces go to: b1: a3 c3, and so on.
@@ -45,7 +31,7 @@ func allGo(t *testing.T, what string, p api.Position, squares ...string) {
 	for _, text := range squares {
 		at, names, _ := strings.Cut(text, ":")
 		goes(t, what, p, at, names)
-		want = append(want, to(at, names)...)
+		want = append(want, sample.To(at, names)...)
 	}
 	if got := moves.All(p); !slices.Equal(got, want) {
 		t.Errorf("%s: all are %v, want %v", what, got, want)
