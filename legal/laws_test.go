@@ -51,55 +51,6 @@ func modelLegal(p api.Position) []api.Move {
 	return l
 }
 
-// anyRight has a king of each side and other pieces anywhere, castlings where they may be, and often a pawn that made a long step.
-func anyRight(r *rand.Rand) api.Position {
-	p := sample.Bare()
-	kings := r.Perm(64)[:2]
-	if r.Intn(2) == 0 {
-		kings = []int{4, 60}
-		p = sample.Set(p, "a1R h1R a8r h8r")
-	}
-	for range r.Intn(24) {
-		x, s := sample.Pieces()[r.Intn(12)], r.Intn(64)
-		if x.Kind != api.King && (x.Kind != api.Pawn || s > 7 && s < 56) {
-			p.Squares[s] = x
-		}
-	}
-	p.Side, p.Full = api.Side(r.Intn(2)), 1+r.Intn(99)
-	leapt := p
-	if r.Intn(3) == 0 {
-		leapt = behindLeap(p, r.Intn(8))
-	}
-	for _, q := range []*api.Position{&p, &leapt} {
-		q.Squares[kings[0]], q.Squares[kings[1]] = sample.Piece('K'), sample.Piece('k')
-		for _, has := range []api.Castle{1, 2, 4, 8} {
-			if q.Castle += has; !board.Right(*q) {
-				q.Castle -= has
-			}
-		}
-	}
-	if board.Right(leapt) {
-		return leapt
-	}
-	p.Half = r.Intn(200)
-	return p
-}
-
-// behindLeap has a pawn of the other side go two ranks on its file, with pawns of the side that moves beside it.
-func behindLeap(p api.Position, file int) api.Position {
-	on := 8 - 16*int(p.Side)
-	p.Over = 40 - 24*int(p.Side) + file
-	p.Squares[p.Over], p.Squares[p.Over+on] = api.Piece{}, api.Piece{}
-	p.Squares[p.Over-on] = api.Piece{Kind: api.Pawn, Side: 1 - p.Side}
-	if file > 0 {
-		p.Squares[p.Over-on-1] = api.Piece{Kind: api.Pawn, Side: p.Side}
-	}
-	if file < 7 {
-		p.Squares[p.Over-on+1] = api.Piece{Kind: api.Pawn, Side: p.Side}
-	}
-	return p
-}
-
 // tried counts of what sorts the positions were that were tried.
 type tried struct {
 	played, checked, ended             int
@@ -170,7 +121,7 @@ func TestByModel(t *testing.T) { // P10.1, P10.2, P10.4
 	r := rand.New(rand.NewSource(101))
 	var n tried
 	for range 6000 {
-		p := anyRight(r)
+		p := sample.AnyRight(r.Intn)
 		if !modelPosition(p) {
 			refuses(t, "by the model", p)
 			continue
@@ -247,7 +198,7 @@ func TestSums(t *testing.T) { // P10.3, P10.4
 	r := rand.New(rand.NewSource(104))
 	positions := sample.Right()
 	for len(positions) < 25 {
-		if p := anyRight(r); legal.Position(p) && legal.Count(p, 1) < 40 {
+		if p := sample.AnyRight(r.Intn); legal.Position(p) && legal.Count(p, 1) < 40 {
 			positions = append(positions, p)
 		}
 	}

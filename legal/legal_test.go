@@ -86,21 +86,11 @@ func allGo(t *testing.T, what string, p api.Position, squares ...string) {
 	all(t, what+", turned", board.Turn(p), turned(want))
 }
 
-// drawn is a position of white's move, by letters on squares.
-func drawn(puts string) api.Position {
-	return sample.Set(sample.Bare(), puts)
-}
-
-// over is a position behind a long step over a square.
-func over(p api.Position, name string) api.Position {
-	p.Over = sample.Square(name)
-	return p
-}
-
-func castle(p api.Position, c api.Castle) api.Position {
-	p.Castle = c
-	return p
-}
+var (
+	drawn  = sample.Drawn
+	over   = sample.Over
+	castle = sample.Castle
+)
 
 func TestBegin(t *testing.T) { // P10.1
 	allGo(t, "the begin", board.Start(),
@@ -227,34 +217,15 @@ func TestDeepCounts(t *testing.T) { // P10.1, P10.2, P10.3, P10.4
 
 // TestEnds has mates and stalemates: no move is legal, and the position may be played on.
 func TestEnds(t *testing.T) { // P10.1, P10.2, P10.3
-	fools, errno := legal.Play(board.Start(), sample.Moves("f2f3 e7e5 g2g4 d8h4")...)
-	if errno != api.OK {
-		t.Fatal(errno)
-	}
-	for _, c := range []struct {
-		what string
-		p    api.Position
-	}{
-		{"the fool's mate", fools},
-		{"mate by a guarded queen", sample.Black(drawn("f6K g7Q g8k"))},
-		{"mate on the last rank", sample.Black(drawn("g1K e8R g8k f7p g7p h7p"))},
-		{"mate by a knight", sample.Black(drawn("a1K f7N h8k g8r g7p h7p"))},
-		{"mate by two at once", sample.Black(drawn("a1K e1R f6N e8k d8q f8b d7p f7p g7p"))},
-		{"mate by two rooks", drawn("a1K h8k h1r h2r")},
-		{"mate by a pawn", drawn("a1K b2p b3k h7b")},
-		{"stalemate by a queen", sample.Black(drawn("f6K f7Q h8k"))},
-		{"stalemate of a king and a pawn", sample.Black(drawn("e6K e7P e8k"))},
-		{"stalemate with pawns that are blocked", drawn("a1K b3q h8k g4P g5p")},
-		{"stalemate with a piece that is pinned", sample.Black(drawn("a6K h8R b8b a8k"))},
-	} {
-		allGo(t, c.what, c.p)
+	for _, c := range append(sample.Mates(), sample.Stalemates()...) {
+		allGo(t, c.What, c.Position)
 		for _, deep := range []int{1, 2, 3, 4, math.MaxInt} {
-			if got := legal.Count(c.p, deep); got != 0 {
-				t.Errorf("%s: %d rows of %d", c.what, got, deep)
+			if got := legal.Count(c.Position, deep); got != 0 {
+				t.Errorf("%s: %d rows of %d", c.What, got, deep)
 			}
 		}
-		if got, errno := legal.Play(c.p); got != c.p || errno != api.OK {
-			t.Errorf("%s: %d, %v", c.what, errno, got)
+		if got, errno := legal.Play(c.Position); got != c.Position || errno != api.OK {
+			t.Errorf("%s: %d, %v", c.What, errno, got)
 		}
 	}
 }

@@ -6,6 +6,7 @@ import (
 	"testing"
 
 	"zugzwang/api"
+	"zugzwang/board"
 	"zugzwang/legal"
 	"zugzwang/moves"
 	"zugzwang/sample"
@@ -52,42 +53,23 @@ func refuses(t *testing.T, what string, p api.Position) {
 func TestNotRight(t *testing.T) { // P10.1, P10.2, P10.3
 	refuses(t, "a bare board", sample.Bare())
 	refuses(t, "a zero position", api.Position{})
-	for _, x := range sample.WrongPieces() {
-		for _, s := range []int{0, 20, 28, 63} {
-			p := castle(sample.Midst(), 0)
-			p.Squares[s] = x
-			refuses(t, "with what is no piece", p)
+	for _, p := range append(sample.Right(), sample.Black(sample.Midst()), sample.Black(sample.Late())) {
+		for _, c := range sample.Spoilt(p) {
+			refuses(t, c.What, c.Position)
 		}
-	}
-	for _, puts := range []string{"e1. ", "e8. ", "e1. e8.", "b3K", "b3k", "b3K b6k", "e1k", "e8K", "e1Q", "b1P", "b1p", "b8P", "g8p"} {
-		refuses(t, "with "+puts, sample.Set(castle(sample.Midst(), 0), puts))
-		refuses(t, "of black, with "+puts, sample.Black(sample.Set(castle(sample.Midst(), 0), puts)))
-	}
-	for _, side := range sample.WrongSides() {
-		p := sample.Begin()
-		p.Side = side
-		refuses(t, "of a Side that may not be", p)
-	}
-	for _, has := range sample.WrongCastles() {
-		refuses(t, "of a Castle that may not be", castle(sample.Midst(), has))
 	}
 	for has, puts := range map[api.Castle]string{1: "h1.", 2: "a1.", 4: "h8.", 8: "a8.", 3: "e1. d1K", 12: "e8. d8k", 5: "h8R", 10: "a1r", 15: "h1Q"} {
 		refuses(t, "of castlings that are lost", castle(sample.Set(sample.Midst(), puts), has))
 	}
-	for half, wrong := range map[int]bool{-1: true, 1025: true, math.MaxInt: true, math.MinInt: true, 0: false, 1024: false} {
-		p := sample.Midst()
-		if p.Half = half; wrong {
-			refuses(t, "of a Half that may not be", p)
-		} else if !legal.Position(p) {
-			t.Errorf("of Half %d it may not be played on", half)
-		}
-	}
-	for full, wrong := range map[int]bool{0: true, -1: true, 16385: true, math.MaxInt: true, math.MinInt: true, 1: false, 16384: false} {
-		p := sample.Midst()
-		if p.Full = full; wrong {
-			refuses(t, "of a Full that may not be", p)
-		} else if !legal.Position(p) {
-			t.Errorf("of Full %d it may not be played on", full)
+}
+
+// TestCountsAtEnds has the least and the most of the counts that may be.
+func TestCountsAtEnds(t *testing.T) { // P10.1
+	for _, half := range []int{0, 1024} {
+		for _, full := range []int{1, 16384} {
+			if p := sample.Counts(sample.Midst(), half, full); !legal.Position(p) {
+				t.Errorf("of Half %d, Full %d it may not be played on", half, full)
+			}
 		}
 	}
 }
@@ -112,22 +94,10 @@ func TestWrongOver(t *testing.T) { // P10.1, P10.2, P10.3
 
 // TestOtherInCheck has positions in which the side that does not move is in check, by each kind of piece.
 func TestOtherInCheck(t *testing.T) { // P10.1, P10.2, P10.3
-	for _, puts := range []string{"e1K e8k e5R", "e1K e8k d7P", "e1K e8k f7P", "e1K e8k d6N", "e1K e8k h5B", "e1K e8k a4Q", "e1K e8k h8Q", "e4K e5k", "e4K d5k", "e1K e8k e5R d2p", "e1K e8k h1R h8R", "a1K h8k h7P g7P"} {
-		refuses(t, "black in check, with "+puts, drawn(puts))
-		refuses(t, "white in check, with "+puts+" turned", turnedBoard(puts))
+	for _, c := range sample.OtherInCheck() {
+		refuses(t, c.What, c.Position)
+		refuses(t, c.What+", turned", board.Turn(c.Position))
 	}
-	refuses(t, "behind the begin's other side", sample.Set(sample.Begin(), "d7. d6N"))
-}
-
-// turnedBoard has the same things, of the other side, on the squares of the turned ranks.
-func turnedBoard(puts string) api.Position {
-	p, q := drawn(puts), sample.Black(sample.Bare())
-	for s, x := range p.Squares {
-		if x.Kind != api.NoKind {
-			q.Squares[s^56] = api.Piece{Kind: x.Kind, Side: 1 - x.Side}
-		}
-	}
-	return q
 }
 
 // wrongMoves are those that are legal in no position, and some that are not at the begin.

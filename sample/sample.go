@@ -73,6 +73,29 @@ func Black(p api.Position) api.Position {
 	return p
 }
 
+// Drawn is a position of white's move with things on a bare board, by names of squares with letters.
+func Drawn(puts string) api.Position {
+	return Set(Bare(), puts)
+}
+
+// Castle is a position with these castlings.
+func Castle(p api.Position, c api.Castle) api.Position {
+	p.Castle = c
+	return p
+}
+
+// Over is a position in which a pawn went over a square, by its name.
+func Over(p api.Position, name string) api.Position {
+	p.Over = Square(name)
+	return p
+}
+
+// Counts is a position with these counts of moves.
+func Counts(p api.Position, half, full int) api.Position {
+	p.Half, p.Full = half, full
+	return p
+}
+
 // Board is a position whose rows are given from rank 8 down, as one sees a board; white moves.
 func Board(rows ...string) api.Position {
 	p := Bare()
