@@ -19,17 +19,6 @@ func is(t *testing.T, what string, p api.Position, result api.Result, reason api
 	}
 }
 
-// turned is a result with the other side as winner.
-func turned(r api.Result) api.Result {
-	switch r {
-	case api.WhiteWins:
-		return api.BlackWins
-	case api.BlackWins:
-		return api.WhiteWins
-	}
-	return r
-}
-
 // counted are a position with all sorts of counts that it may have.
 func counted(p api.Position) []api.Position {
 	all := []api.Position{p}
@@ -52,7 +41,7 @@ func comes(t *testing.T, what string, p api.Position, result api.Result, reason 
 	}
 	for _, q := range counted(p) {
 		is(t, what, q, result, reason)
-		is(t, what+", turned", board.Turn(q), turned(result), reason)
+		is(t, what+", turned", board.Turn(q), sample.TurnedResult(result), reason)
 	}
 }
 

@@ -47,7 +47,7 @@ func (n *seen) laws(t *testing.T, p api.Position) {
 	result, reason := model(p)
 	n[result]++
 	is(t, "by the model", p, result, reason)
-	is(t, "by the model, turned", board.Turn(p), turned(result), reason)
+	is(t, "by the model, turned", board.Turn(p), sample.TurnedResult(result), reason)
 	if played := legal.Position(p); ends.Fifty(p) != (played && p.Half >= 100) || ends.Seventy(p) != (played && p.Half >= 150) {
 		t.Errorf("Half %d, may be played on: %v: fifty %v, seventy %v", p.Half, played, ends.Fifty(p), ends.Seventy(p))
 	}

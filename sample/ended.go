@@ -60,3 +60,14 @@ func Stalemates() []Named {
 		{"with all pieces", Castle(Counts(Board("rn..k.nr", "pp....pp", "...p....", "q.pP....", "P.P..p.b", ".b..pPRP", ".P.NP.PQ", "..B.KBNR"), 0, 13), 13)},
 	}
 }
+
+// TurnedResult is a result with the other side as winner.
+func TurnedResult(r api.Result) api.Result {
+	switch r {
+	case api.WhiteWins:
+		return api.BlackWins
+	case api.BlackWins:
+		return api.WhiteWins
+	}
+	return r
+}

@@ -74,3 +74,24 @@ func Scattered(draw func(int) int) api.Position {
 func oneOf[T any](draw func(int) int, all ...T) T {
 	return all[draw(len(all))]
 }
+
+// WrongReasons are numbers of no reason. Many are one of a reason, if one takes less than all of their bits, or leaves their sign out.
+func WrongReasons() []api.Reason {
+	all := []api.Reason{-1, 11, 12, 15, 255, math.MaxInt, math.MinInt}
+	for why := api.NoReason; why <= api.BadSeal; why++ {
+		all = append(all, 16+why, 256+why, 1<<16+why, 1<<32+why, math.MinInt+why)
+		if why > 1 {
+			all = append(all, -why)
+		}
+	}
+	return all
+}
+
+// Reasons are all that there are, NoReason ahead.
+func Reasons() []api.Reason {
+	var all []api.Reason
+	for why := api.NoReason; why <= api.BadSeal; why++ {
+		all = append(all, why)
+	}
+	return all
+}
